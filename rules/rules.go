@@ -1,0 +1,51 @@
+// Package rules holds what several layers ask of numbers, items and bounds (chapter 1).
+package rules
+
+import (
+	"cmp"
+	"slices"
+
+	"bourne/api"
+)
+
+// Within tells whether n is from low to high.
+func Within(n int, low int, high int) bool {
+	return low <= n && n <= high
+}
+
+// Item tells whether x may be an item.
+func Item(x api.Item) bool {
+	return Within(x.Series, 0, api.MaxId) &&
+		Within(x.Time, -api.MaxTime, api.MaxTime) &&
+		Within(x.Seq, 1, api.MaxSeq) &&
+		Within(x.Value, -api.MaxValue, api.MaxValue)
+}
+
+// Compare orders items by Time, then by Seq: below 0 if x stands ahead of y, 0 if they are alike.
+func Compare(x api.Item, y api.Item) int {
+	return cmp.Or(cmp.Compare(x.Time, y.Time), cmp.Compare(x.Seq, y.Seq))
+}
+
+// Bounds tells whether these may be bounds.
+func Bounds(bounds []int) bool {
+	if len(bounds) > api.MaxBounds {
+		return false
+	}
+	for _, b := range bounds {
+		if !Within(b, -api.MaxValue, api.MaxValue) {
+			return false
+		}
+	}
+	for i := range len(bounds) - 1 {
+		if bounds[i] >= bounds[i+1] {
+			return false
+		}
+	}
+	return true
+}
+
+// Bucket gives the place of the bucket into which value falls; the bounds may be.
+func Bucket(bounds []int, value int) int {
+	at, _ := slices.BinarySearch(bounds, value)
+	return at
+}
