@@ -1,4 +1,4 @@
-// Package rules holds what several layers ask of numbers, items and bounds (chapter 1).
+// Package rules holds what several layers ask of numbers, items and bounds (chapter 1), of queries and of what they tell.
 package rules
 
 import (
@@ -48,4 +48,22 @@ func Bounds(bounds []int) bool {
 func Bucket(bounds []int, value int) int {
 	at, _ := slices.BinarySearch(bounds, value)
 	return at
+}
+
+// Step gives how far apart the Starts of q's windows stand; q may be and is not of KindSession.
+func Step(q api.Query) int {
+	if q.Kind == api.KindSliding {
+		return q.Slide
+	}
+	return q.Size
+}
+
+// CompareResults orders windows as they go out: by End, then by Query, Series, Start; below 0 if a goes ahead of b.
+func CompareResults(a api.Result, b api.Result) int {
+	return cmp.Or(
+		cmp.Compare(a.Span.End, b.Span.End),
+		cmp.Compare(a.Query, b.Query),
+		cmp.Compare(a.Series, b.Series),
+		cmp.Compare(a.Span.Start, b.Span.Start),
+	)
 }

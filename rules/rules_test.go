@@ -82,3 +82,38 @@ func TestBucket(t *testing.T) {
 		}
 	}
 }
+
+func TestStep(t *testing.T) {
+	for _, c := range []struct {
+		q    api.Query
+		want int
+	}{
+		{api.Query{Size: 10}, 10}, {api.Query{Kind: api.KindSliding, Size: 10, Slide: 3}, 3}, {api.Query{Kind: api.KindSliding, Size: 10, Slide: 10}, 10},
+	} {
+		if got := rules.Step(c.q); got != c.want {
+			t.Errorf("Step(%v): %d, want %d", c.q, got, c.want)
+		}
+	}
+}
+
+func TestCompareResults(t *testing.T) {
+	result := func(end, query, series, start int) api.Result {
+		return api.Result{Query: query, Series: series, Span: api.Span{Start: start, End: end}}
+	}
+	row := []api.Result{
+		result(-5, 7, 9, -6), result(0, 0, 9, -1), result(0, 1, 3, -1), result(0, 1, 4, -9), result(0, 1, 4, -8), result(0, 2, 0, -20), result(math.MaxInt, 0, 0, math.MinInt),
+	}
+	for i, a := range row {
+		for j, b := range row {
+			got := rules.CompareResults(a, b)
+			if (got < 0) != (i < j) || (got > 0) != (i > j) {
+				t.Errorf("CompareResults(%v, %v): %d", a, b, got)
+			}
+		}
+	}
+	a, b := result(1, 2, 3, 0), result(1, 2, 3, 0)
+	a.Out.Value = 5
+	if rules.CompareResults(a, b) != 0 {
+		t.Error("CompareResults: what is told of a window has no say")
+	}
+}
