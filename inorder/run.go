@@ -4,6 +4,7 @@ import (
 	"slices"
 
 	"bourne/api"
+	"bourne/ask"
 	"bourne/front"
 	"bourne/heap"
 	"bourne/rules"
@@ -78,7 +79,7 @@ func (r *run) rowOf(series int) *row {
 	if r.rows[series] == nil {
 		lanes := make([]lane, 0, len(r.Queries()))
 		for place, q := range r.Queries() {
-			lanes = append(lanes, newLane(place, q, series))
+			lanes = append(lanes, newLane(ask.Ask{Query: q, Place: place, Series: series}))
 		}
 		r.rows[series] = &row{lanes: lanes}
 	}
