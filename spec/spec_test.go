@@ -417,6 +417,52 @@ func TestEnds(t *testing.T) {
 	}
 }
 
+// stretched gives c with all its lengths scale times as great.
+func stretched(c api.Config, scale int) api.Config {
+	c.Late *= scale
+	c.Queries = slices.Clone(c.Queries)
+	for i := range c.Queries {
+		c.Queries[i].Size *= scale
+		c.Queries[i].Slide *= scale
+	}
+	return c
+}
+
+// moved gives xs with each Time scale times as great, and by so much more.
+func moved(xs []api.Item, scale int, by int) []api.Item {
+	out := slices.Clone(xs)
+	for i := range out {
+		out[i].Time = out[i].Time*scale + by
+	}
+	return out
+}
+
+// TestFar: with all lengths and times so many times as great, and moved to where times end, the windows are the same ones, there.
+func TestFar(t *testing.T) {
+	// As wide as this, the greatest ones reach beyond what 32 bits hold.
+	const span = 40
+	// All steps up to 14 go into it, so windows moved by it are windows.
+	const steps = 360360
+	s := numbers(33)
+	for range 400 {
+		c, xs := s.config(), s.items(14, span)
+		from := s.next(120) - 60
+		to := from + s.next(60)
+		results, held := wantedResults(c, xs, from, to), wantedHeld(c, xs, to)
+		for _, scale := range []int{1, 1000, api.MaxSpan / 16} {
+			far := (api.MaxTime - span*scale) / (steps * scale) * steps * scale
+			for _, by := range []int{-far, far} {
+				want := slices.Clone(results)
+				for i, r := range want {
+					want[i].Span = api.Span{Start: r.Span.Start*scale + by, End: r.Span.End*scale + by}
+				}
+				wantResults(t, stretched(c, scale), moved(xs, scale, by), from*scale+by, to*scale+by, want)
+				wantHeld(t, stretched(c, scale), moved(xs, scale, by), to*scale+by, moved(held, scale, by))
+			}
+		}
+	}
+}
+
 // TestOver: a sum beyond its limits is told as such.
 func TestOver(t *testing.T) {
 	c := of(0, api.Query{Agg: api.AggSum, Size: 10})
@@ -507,6 +553,40 @@ func TestMost(t *testing.T) {
 	}
 	if got, e := spec.Results(c, xs, api.NoMark, api.MaxMark); len(got) != 8*2*64 || e != api.OK {
 		t.Fatalf("P21.1: %d results, error %d", len(got), e)
+	}
+}
+
+// TestManyWindows: as many windows as one query may have, each of an item alone, of one series or of one an item.
+func TestManyWindows(t *testing.T) {
+	c := of(0, api.Query{Kind: api.KindSliding, Agg: api.AggLast, Size: 64 * 1000, Slide: 1000})
+	for _, apart := range []api.Item{{Time: 100000}, {Series: 1}} {
+		var xs []api.Item
+		for i := range api.MaxItems {
+			xs = append(xs, api.Item{Series: apart.Series * i, Time: apart.Time * i, Seq: 1 + i, Value: i})
+		}
+		got, e := spec.Results(c, xs, api.NoMark, api.MaxMark)
+		if len(got) != 64*api.MaxItems || e != api.OK {
+			t.Fatalf("P21.1: %d results, error %d; want %d", len(got), e, 64*api.MaxItems)
+		}
+		if !sort.SliceIsSorted(got, func(i, j int) bool {
+			a, b := got[i], got[j]
+			return a.Span.End < b.Span.End || a.Span.End == b.Span.End && a.Series < b.Series
+		}) {
+			t.Fatal("P21.1: not by End, then Series")
+		}
+		var many [api.MaxItems]int
+		for _, r := range got {
+			x := xs[r.Out.Value]
+			if r.Series != x.Series || r.Span.Start > x.Time || r.Span.End <= x.Time || r.Span.Start%1000 != 0 || r.Span.End-r.Span.Start != 64000 {
+				t.Fatalf("P21.1: %v holds not %v", r, x)
+			}
+			many[x.Seq-1]++
+		}
+		for i, n := range many {
+			if n != 64 {
+				t.Fatalf("P21.1: item %d goes out %d times", i, n)
+			}
+		}
 	}
 }
 
